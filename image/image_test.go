@@ -1497,8 +1497,11 @@ func TestArgumentsAreOnlyRead(t *testing.T) {
 	}
 }
 
-// span is memory that a list has, all of its room too.
-type span struct{ from, end uintptr }
+// span is memory that a list has, all of its room too. The list is kept, so that no later one gets the same memory.
+type span struct {
+	from, end uintptr
+	list      any
+}
 
 // spans are those of all lists in some value.
 func spans(v reflect.Value) []span {
@@ -1510,7 +1513,7 @@ func spans(v reflect.Value) []span {
 		}
 	case reflect.Slice:
 		if size := uintptr(v.Cap()) * v.Type().Elem().Size(); size > 0 {
-			l = append(l, span{v.Pointer(), v.Pointer() + size})
+			l = append(l, span{v.Pointer(), v.Pointer() + size, v})
 		}
 		for i := range v.Len() {
 			l = append(l, spans(v.Index(i))...)
@@ -1532,7 +1535,7 @@ func TestResultsShareNoMemory(t *testing.T) {
 	for i, s := range all {
 		for _, u := range all[:i] {
 			if s.from < u.end && u.from < s.end {
-				t.Errorf("%v and %v are the same memory", s, u)
+				t.Errorf("%x to %x and %x to %x are the same memory", s.from, s.end, u.from, u.end)
 			}
 		}
 	}

@@ -675,12 +675,15 @@ func TestArgumentsAreOnlyRead(t *testing.T) {
 	}
 }
 
-// span is memory that a list has, all of its room too.
-type span struct{ from, end uintptr }
+// span is memory that a list has, all of its room too. The list is kept, so that no later one gets the same memory.
+type span struct {
+	from, end uintptr
+	list      any
+}
 
 func spanOf[E any](l []E) span {
 	from := reflect.ValueOf(l).Pointer()
-	return span{from, from + uintptr(cap(l))*reflect.TypeFor[E]().Size()}
+	return span{from, from + uintptr(cap(l))*reflect.TypeFor[E]().Size(), l}
 }
 
 func TestResultsShareNoMemory(t *testing.T) {
@@ -699,7 +702,7 @@ func TestResultsShareNoMemory(t *testing.T) {
 	for i, x := range all {
 		for _, y := range all[:i] {
 			if x.from < y.end && y.from < x.end {
-				t.Errorf("%v and %v are the same memory", x, y)
+				t.Errorf("%x to %x and %x to %x are the same memory", x.from, x.end, y.from, y.end)
 			}
 		}
 	}
